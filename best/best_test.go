@@ -128,6 +128,7 @@ func TestManyWays(t *testing.T) {
 		}
 		check26(t, "", strings.Repeat(text(rnd, few, few), 300), api.Reps{1, 2, 3, 4}, price.Flat(1, 1), 1<<15)
 	}
+	check26(t, "", strings.Repeat("a", 1<<16), api.Reps{1, 2, 3, 4}, price.Flat(9, 6), 1<<15)
 	check26(t, "", text(rnd, 1<<12, 250), api.Reps{1, 2, 3, 4}, price.Flat(9, 6), 1<<15)
 }
 

@@ -5,8 +5,25 @@ import (
 	"slices"
 
 	"gladstone/api"
+	"gladstone/near"
 	"gladstone/token"
 )
+
+// loose is what block costs at least, each source counting as one of the last four distances, or as the cheapest distance: it is known at once, and often enough.
+func loose(hist, block string, c *costs, window int) int {
+	ends := near.New(hist + block)
+	dist := slices.Min(c.dist)
+	least := make([]int, len(block)+1)
+	for i := len(block) - 1; i >= 0; i-- {
+		least[i] = c.literal[block[i]] + least[i+1]
+		if l := ends.At(len(hist)+i, window, api.MaxLen); len(l) > 0 {
+			for n := api.MinLen; n <= l[len(l)-1].Len; n++ {
+				least[i] = min(least[i], min(c.again(n), c.length[n]+dist)+least[i+n])
+			}
+		}
+	}
+	return least[0]
+}
 
 // span is the first and the last place of the block at which a distance is a source.
 type span struct{ first, last int }
