@@ -1,10 +1,12 @@
-package adler
+package adler_test
 
 import (
 	"hash/adler32"
 	"math"
 	"strings"
 	"testing"
+
+	. "gladstone/adler"
 )
 
 func texts() []string {

@@ -1,4 +1,4 @@
-package best
+package best_test
 
 import (
 	"math/rand"
@@ -7,6 +7,7 @@ import (
 	"testing"
 
 	"gladstone/api"
+	. "gladstone/best"
 	"gladstone/denote"
 	"gladstone/price"
 	"gladstone/reps"

@@ -1,4 +1,4 @@
-package bintree
+package bintree_test
 
 import (
 	"math"
@@ -8,6 +8,7 @@ import (
 	"testing"
 
 	"gladstone/api"
+	. "gladstone/bintree"
 	"gladstone/lcp"
 	"gladstone/near"
 )

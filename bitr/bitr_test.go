@@ -1,9 +1,10 @@
-package bitr
+package bitr_test
 
 import (
 	"testing"
 
 	"gladstone/api"
+	. "gladstone/bitr"
 	"gladstone/bitw"
 )
 

@@ -1,4 +1,4 @@
-package bittree
+package bittree_test
 
 import (
 	"math"
@@ -7,6 +7,7 @@ import (
 	"testing"
 
 	"gladstone/api"
+	. "gladstone/bittree"
 	"gladstone/prob"
 	"gladstone/ranger"
 )

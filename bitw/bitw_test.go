@@ -1,9 +1,10 @@
-package bitw
+package bitw_test
 
 import (
 	"testing"
 
 	"gladstone/api"
+	. "gladstone/bitw"
 )
 
 func TestPut(t *testing.T) {

@@ -1,4 +1,4 @@
-package block
+package block_test
 
 import (
 	"math/rand"
@@ -6,6 +6,7 @@ import (
 	"testing"
 
 	"gladstone/api"
+	. "gladstone/block"
 	"gladstone/coded"
 	"gladstone/denote"
 	"gladstone/heads"

@@ -1,4 +1,4 @@
-package bound
+package bound_test
 
 import (
 	"math"
@@ -6,6 +6,7 @@ import (
 	"testing"
 
 	"gladstone/api"
+	. "gladstone/bound"
 	"gladstone/deflow"
 )
 

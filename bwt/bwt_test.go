@@ -1,4 +1,4 @@
-package bwt
+package bwt_test
 
 import (
 	"math"
@@ -8,6 +8,7 @@ import (
 	"testing"
 
 	"gladstone/api"
+	. "gladstone/bwt"
 )
 
 func slow(s string) (string, int) {

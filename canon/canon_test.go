@@ -1,4 +1,4 @@
-package canon
+package canon_test
 
 import (
 	"math"
@@ -7,6 +7,7 @@ import (
 	"testing"
 
 	"gladstone/api"
+	. "gladstone/canon"
 	"gladstone/pmerge"
 )
 

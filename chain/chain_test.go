@@ -1,4 +1,4 @@
-package chain
+package chain_test
 
 import (
 	"math"
@@ -8,6 +8,7 @@ import (
 	"testing"
 
 	"gladstone/api"
+	. "gladstone/chain"
 	"gladstone/lcp"
 	"gladstone/near"
 )

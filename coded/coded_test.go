@@ -1,4 +1,4 @@
-package coded
+package coded_test
 
 import (
 	"math/rand"
@@ -7,6 +7,7 @@ import (
 
 	"gladstone/api"
 	"gladstone/bitw"
+	. "gladstone/coded"
 	"gladstone/count"
 	"gladstone/lens"
 	"gladstone/slow"

@@ -1,10 +1,11 @@
-package count
+package count_test
 
 import (
 	"slices"
 	"testing"
 
 	"gladstone/api"
+	. "gladstone/count"
 	"gladstone/kraft"
 	"gladstone/pmerge"
 	"gladstone/price"

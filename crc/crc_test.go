@@ -1,9 +1,11 @@
-package crc
+package crc_test
 
 import (
 	"hash/crc32"
 	"strings"
 	"testing"
+
+	. "gladstone/crc"
 )
 
 func slow(sum uint32, s string) uint32 {

@@ -1,4 +1,4 @@
-package deflow
+package deflow_test
 
 import (
 	"math/rand"
@@ -6,6 +6,7 @@ import (
 	"testing"
 
 	"gladstone/api"
+	. "gladstone/deflow"
 	"gladstone/frame"
 	"gladstone/unframe"
 )
@@ -147,12 +148,32 @@ func TestRefuses(t *testing.T) {
 }
 
 func TestTooManyBytes(t *testing.T) {
-	w, _ := New(api.Params{Log: 15})
-	w.total = api.NoLimit - 2 // as if so many had been written
-	if s, e := w.Write("abc"); s != "" || e != api.ErrLimit || len(w.waiting) != 0 {
-		t.Error(s, e)
+	if testing.Short() {
+		t.Skip("two thousand million bytes are written")
 	}
-	if s, e := w.Write("ab"); s != "GLD1\x0f" || e != api.OK {
-		t.Error(s, e)
+	w, _ := New(api.Params{Log: 15})
+	part := strings.Repeat("x", 1<<26)
+	for k := range 32 {
+		if k == 31 {
+			part = part[:len(part)-3]
+		}
+		if _, e := w.Write(part); e != api.OK {
+			t.Fatal(k, e)
+		}
+	}
+	if s, e := w.Write("abc"); s != "" || e != api.ErrLimit {
+		t.Error(len(s), e)
+	}
+	if s, e := w.Write("ab"); s != "" || e != api.OK {
+		t.Error(len(s), e)
+	}
+	if s, e := w.Write(""); s != "" || e != api.OK {
+		t.Error(len(s), e)
+	}
+	if s, e := w.Write("a"); s != "" || e != api.ErrLimit {
+		t.Error(len(s), e)
+	}
+	if s, e := w.Finish(); len(s) != 5+1<<16-1+5 || e != api.OK {
+		t.Error(len(s), e)
 	}
 }

@@ -1,4 +1,4 @@
-package delta
+package delta_test
 
 import (
 	"math"
@@ -7,6 +7,7 @@ import (
 	"testing"
 
 	"gladstone/api"
+	. "gladstone/delta"
 )
 
 func TestApply(t *testing.T) {

@@ -1,10 +1,11 @@
-package denote
+package denote_test
 
 import (
 	"math"
 	"testing"
 
 	"gladstone/api"
+	. "gladstone/denote"
 )
 
 func TestCopy(t *testing.T) {

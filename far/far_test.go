@@ -1,4 +1,4 @@
-package far
+package far_test
 
 import (
 	"math"
@@ -6,6 +6,7 @@ import (
 	"testing"
 
 	"gladstone/api"
+	. "gladstone/far"
 )
 
 func bytesOf(seed int64, n int) string {

@@ -1,4 +1,4 @@
-package fast
+package fast_test
 
 import (
 	"math/rand"
@@ -8,6 +8,7 @@ import (
 	"gladstone/api"
 	"gladstone/coded"
 	"gladstone/denote"
+	. "gladstone/fast"
 	"gladstone/greedy"
 	"gladstone/window"
 )

@@ -1,4 +1,4 @@
-package flat
+package flat_test
 
 import (
 	"math/rand"
@@ -6,6 +6,7 @@ import (
 
 	"gladstone/api"
 	"gladstone/bitr"
+	. "gladstone/flat"
 	"gladstone/pmerge"
 	"gladstone/slow"
 )

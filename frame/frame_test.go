@@ -1,4 +1,4 @@
-package frame
+package frame_test
 
 import (
 	"math"
@@ -11,6 +11,7 @@ import (
 	"gladstone/api"
 	"gladstone/block"
 	"gladstone/crc"
+	. "gladstone/frame"
 	"gladstone/heads"
 	"gladstone/level"
 )

@@ -1,4 +1,4 @@
-package grams
+package grams_test
 
 import (
 	"math/rand"
@@ -7,6 +7,7 @@ import (
 	"testing"
 
 	"gladstone/api"
+	. "gladstone/grams"
 )
 
 func TestCount(t *testing.T) {

@@ -1,4 +1,4 @@
-package greedy
+package greedy_test
 
 import (
 	"fmt"
@@ -9,6 +9,7 @@ import (
 
 	"gladstone/api"
 	"gladstone/denote"
+	. "gladstone/greedy"
 	"gladstone/token"
 )
 

@@ -1,9 +1,10 @@
-package heads
+package heads_test
 
 import (
 	"testing"
 
 	"gladstone/api"
+	. "gladstone/heads"
 )
 
 func TestPut(t *testing.T) {

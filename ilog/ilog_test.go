@@ -1,4 +1,4 @@
-package ilog
+package ilog_test
 
 import (
 	"math"
@@ -6,6 +6,7 @@ import (
 	"testing"
 
 	"gladstone/api"
+	. "gladstone/ilog"
 )
 
 // exact is the greatest number of sixteenths whose power of two is not above n.

@@ -1,4 +1,4 @@
-package inflow
+package inflow_test
 
 import (
 	"math/rand"
@@ -8,6 +8,7 @@ import (
 	"gladstone/api"
 	"gladstone/deflow"
 	"gladstone/frame"
+	. "gladstone/inflow"
 	"gladstone/unframe"
 )
 

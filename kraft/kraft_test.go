@@ -1,9 +1,10 @@
-package kraft
+package kraft_test
 
 import (
 	"testing"
 
 	"gladstone/api"
+	. "gladstone/kraft"
 )
 
 func TestUsedAndSum(t *testing.T) {

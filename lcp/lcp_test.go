@@ -1,4 +1,4 @@
-package lcp
+package lcp_test
 
 import (
 	"math"
@@ -7,6 +7,7 @@ import (
 	"strings"
 	"testing"
 
+	. "gladstone/lcp"
 	"gladstone/suffix"
 )
 

@@ -1,4 +1,4 @@
-package lens
+package lens_test
 
 import (
 	"math/rand"
@@ -8,6 +8,7 @@ import (
 	"gladstone/api"
 	"gladstone/bitr"
 	"gladstone/bitw"
+	. "gladstone/lens"
 )
 
 func TestSizeOfTwo(t *testing.T) {

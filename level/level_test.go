@@ -1,4 +1,4 @@
-package level
+package level_test
 
 import (
 	"math"
@@ -6,6 +6,7 @@ import (
 	"testing"
 
 	"gladstone/api"
+	. "gladstone/level"
 )
 
 func TestCheckAndHead(t *testing.T) {

@@ -1,4 +1,4 @@
-package listing
+package listing_test
 
 import (
 	"math/rand"
@@ -12,6 +12,7 @@ import (
 	"gladstone/denote"
 	"gladstone/frame"
 	"gladstone/heads"
+	. "gladstone/listing"
 )
 
 func TestExample(t *testing.T) {

@@ -1,4 +1,4 @@
-package lzw
+package lzw_test
 
 import (
 	"math"
@@ -8,6 +8,7 @@ import (
 
 	"gladstone/api"
 	"gladstone/bitw"
+	. "gladstone/lzw"
 )
 
 // slow keeps all rows as texts.

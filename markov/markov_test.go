@@ -1,4 +1,4 @@
-package markov
+package markov_test
 
 import (
 	"math"
@@ -7,6 +7,7 @@ import (
 	"testing"
 
 	"gladstone/api"
+	. "gladstone/markov"
 	"gladstone/prob"
 	"gladstone/ranger"
 )

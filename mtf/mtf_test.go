@@ -1,4 +1,4 @@
-package mtf
+package mtf_test
 
 import (
 	"bytes"
@@ -8,6 +8,7 @@ import (
 	"testing"
 
 	"gladstone/api"
+	. "gladstone/mtf"
 )
 
 func TestMove(t *testing.T) {

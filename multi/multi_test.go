@@ -1,4 +1,4 @@
-package multi
+package multi_test
 
 import (
 	"math/rand"
@@ -8,6 +8,7 @@ import (
 
 	"gladstone/api"
 	"gladstone/frame"
+	. "gladstone/multi"
 )
 
 func TestJoin(t *testing.T) {

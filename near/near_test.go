@@ -1,4 +1,4 @@
-package near
+package near_test
 
 import (
 	"math"
@@ -9,6 +9,7 @@ import (
 
 	"gladstone/api"
 	"gladstone/lcp"
+	. "gladstone/near"
 )
 
 func slow(s string, i, window, most int) []api.Match {

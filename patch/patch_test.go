@@ -1,4 +1,4 @@
-package patch
+package patch_test
 
 import (
 	"math/rand"
@@ -7,6 +7,7 @@ import (
 
 	"gladstone/api"
 	"gladstone/frame"
+	. "gladstone/patch"
 	"gladstone/varint"
 )
 

@@ -1,4 +1,4 @@
-package pmerge
+package pmerge_test
 
 import (
 	"math/rand"
@@ -7,6 +7,7 @@ import (
 
 	"gladstone/api"
 	"gladstone/kraft"
+	. "gladstone/pmerge"
 )
 
 func TestLengths(t *testing.T) {

@@ -1,10 +1,11 @@
-package price
+package price_test
 
 import (
 	"math"
 	"testing"
 
 	"gladstone/api"
+	. "gladstone/price"
 )
 
 func TestFlat(t *testing.T) {

@@ -1,4 +1,4 @@
-package prob
+package prob_test
 
 import (
 	"math"
@@ -6,6 +6,7 @@ import (
 	"testing"
 
 	"gladstone/api"
+	. "gladstone/prob"
 )
 
 func TestUpdate(t *testing.T) {

@@ -1,4 +1,4 @@
-package ranger
+package ranger_test
 
 import (
 	"math"
@@ -7,6 +7,7 @@ import (
 	"testing"
 
 	"gladstone/api"
+	. "gladstone/ranger"
 )
 
 // slow is the bytes as the chapter says, with numbers of any size.

@@ -1,4 +1,4 @@
-package refine
+package refine_test
 
 import (
 	"math/rand"
@@ -13,6 +13,7 @@ import (
 	"gladstone/denote"
 	"gladstone/greedy"
 	"gladstone/price"
+	. "gladstone/refine"
 	"gladstone/weight"
 )
 

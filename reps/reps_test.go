@@ -1,9 +1,10 @@
-package reps
+package reps_test
 
 import (
 	"testing"
 
 	"gladstone/api"
+	. "gladstone/reps"
 )
 
 func TestUse(t *testing.T) {

@@ -1,4 +1,4 @@
-package roll
+package roll_test
 
 import (
 	"math"
@@ -9,6 +9,7 @@ import (
 	"testing"
 
 	"gladstone/api"
+	. "gladstone/roll"
 )
 
 func TestHash(t *testing.T) {

@@ -1,4 +1,4 @@
-package runs
+package runs_test
 
 import (
 	"math/rand"
@@ -6,6 +6,7 @@ import (
 	"testing"
 
 	"gladstone/api"
+	. "gladstone/runs"
 )
 
 func TestExtra(t *testing.T) {

@@ -1,4 +1,4 @@
-package seek
+package seek_test
 
 import (
 	"math"
@@ -9,6 +9,7 @@ import (
 	"gladstone/api"
 	"gladstone/frame"
 	"gladstone/listing"
+	. "gladstone/seek"
 	"gladstone/unframe"
 )
 

@@ -1,4 +1,4 @@
-package shell
+package shell_test
 
 import (
 	"encoding/hex"
@@ -8,6 +8,7 @@ import (
 	"gladstone/api"
 	"gladstone/deflow"
 	"gladstone/frame"
+	. "gladstone/shell"
 )
 
 func TestHex(t *testing.T) {

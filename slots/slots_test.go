@@ -1,10 +1,11 @@
-package slots
+package slots_test
 
 import (
 	"math"
 	"testing"
 
 	"gladstone/api"
+	. "gladstone/slots"
 )
 
 // rows is the first number of each slot, and its extra bits, laid one behind the other.

@@ -1,4 +1,4 @@
-package slow
+package slow_test
 
 import (
 	"math/rand"
@@ -7,6 +7,7 @@ import (
 
 	"gladstone/api"
 	"gladstone/pmerge"
+	. "gladstone/slow"
 )
 
 func bitsOf(s string) []bool {

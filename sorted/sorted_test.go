@@ -1,4 +1,4 @@
-package sorted
+package sorted_test
 
 import (
 	"math/rand"
@@ -10,6 +10,7 @@ import (
 	"gladstone/bittree"
 	"gladstone/bwt"
 	"gladstone/mtf"
+	. "gladstone/sorted"
 	"gladstone/varint"
 	"gladstone/zeros"
 )

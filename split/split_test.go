@@ -1,4 +1,4 @@
-package split
+package split_test
 
 import (
 	"math"
@@ -9,6 +9,7 @@ import (
 
 	"gladstone/api"
 	"gladstone/ilog"
+	. "gladstone/split"
 )
 
 func TestCost(t *testing.T) {

@@ -1,4 +1,4 @@
-package spread
+package spread_test
 
 import (
 	"math"
@@ -6,6 +6,7 @@ import (
 	"testing"
 
 	"gladstone/api"
+	. "gladstone/spread"
 )
 
 func TestBuckets(t *testing.T) {

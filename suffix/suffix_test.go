@@ -1,4 +1,4 @@
-package suffix
+package suffix_test
 
 import (
 	"math/rand"
@@ -7,6 +7,8 @@ import (
 	"strings"
 	"testing"
 	"time"
+
+	. "gladstone/suffix"
 )
 
 func slowSort(s string) []int {

@@ -1,4 +1,4 @@
-package tally
+package tally_test
 
 import (
 	"math"
@@ -9,6 +9,7 @@ import (
 	"gladstone/api"
 	"gladstone/frame"
 	"gladstone/listing"
+	. "gladstone/tally"
 )
 
 func TestTokens(t *testing.T) {

@@ -1,4 +1,4 @@
-package tans
+package tans_test
 
 import (
 	"math"
@@ -8,6 +8,7 @@ import (
 
 	"gladstone/api"
 	"gladstone/bitw"
+	. "gladstone/tans"
 )
 
 func TestNorm(t *testing.T) {

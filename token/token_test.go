@@ -1,10 +1,11 @@
-package token
+package token_test
 
 import (
 	"testing"
 
 	"gladstone/api"
 	"gladstone/slots"
+	. "gladstone/token"
 )
 
 func TestCheckAndSize(t *testing.T) {

@@ -1,4 +1,4 @@
-package twolev
+package twolev_test
 
 import (
 	"math/rand"
@@ -9,6 +9,7 @@ import (
 	"gladstone/canon"
 	"gladstone/flat"
 	"gladstone/pmerge"
+	. "gladstone/twolev"
 )
 
 func TestNew(t *testing.T) {

@@ -1,4 +1,4 @@
-package unframe
+package unframe_test
 
 import (
 	"math/rand"
@@ -11,6 +11,7 @@ import (
 	"gladstone/crc"
 	"gladstone/frame"
 	"gladstone/heads"
+	. "gladstone/unframe"
 )
 
 func text(rnd *rand.Rand, n, few int) string {

@@ -1,10 +1,11 @@
-package varint
+package varint_test
 
 import (
 	"math"
 	"testing"
 
 	"gladstone/api"
+	. "gladstone/varint"
 )
 
 func TestPut(t *testing.T) {

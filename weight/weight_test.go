@@ -1,4 +1,4 @@
-package weight
+package weight_test
 
 import (
 	"math"
@@ -6,6 +6,7 @@ import (
 	"testing"
 
 	"gladstone/api"
+	. "gladstone/weight"
 )
 
 func TestWhole(t *testing.T) {

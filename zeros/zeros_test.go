@@ -1,4 +1,4 @@
-package zeros
+package zeros_test
 
 import (
 	"math"
@@ -7,6 +7,7 @@ import (
 	"testing"
 
 	"gladstone/api"
+	. "gladstone/zeros"
 )
 
 func TestPack(t *testing.T) {
