@@ -100,9 +100,13 @@ func check26(t *testing.T, hist, block string, r api.Reps, p api.Prices, window 
 
 func TestNoneCostLess(t *testing.T) {
 	rnd := rand.New(rand.NewSource(1))
-	for k := range 500 {
+	for k := range 1000 {
 		few := 1 + rnd.Intn(3)
 		hist, block := text(rnd, rnd.Intn(7), few), text(rnd, rnd.Intn(12), few)
+		if k%4 == 0 { // bytes that are runes together
+			swap := strings.NewReplacer("a", "\xc3", "b", "\xa9", "c", "\xe2")
+			hist, block = swap.Replace(hist), swap.Replace(block)
+		}
 		p := price.Flat(1+rnd.Intn(9), 1+rnd.Intn(6))
 		if k%2 == 0 {
 			p = chances(rnd, 1+rnd.Intn(20))

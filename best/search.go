@@ -45,7 +45,7 @@ func newSearch(hist, block string, r api.Reps, c *costs, window int) *search {
 	s := &search{text: hist + block, base: len(hist), window: window, costs: c, gap: c.gap(), spans: map[int]span{}}
 	s.ahead = twos(s.text)
 	s.places = make([]reached[api.Reps], len(block)+1)
-	for i := range block {
+	for i := range len(block) {
 		s.sources(i, func(d int) {
 			was, ok := s.spans[d]
 			if !ok {
