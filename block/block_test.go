@@ -80,6 +80,45 @@ func TestEncode(t *testing.T) {
 	}
 }
 
+// TestBestUpTo256 has blocks at which the best way and the lazy one part.
+func TestBestUpTo256(t *testing.T) {
+	rnd := rand.New(rand.NewSource(2))
+	s := api.Settings{Way: api.WayBest, Depth: 64, Passes: 2}
+	lazily := api.Settings{Way: api.WayLazy, Depth: 64}
+	others := map[int]int{}
+	for range 40 {
+		hist, b := text(rnd, 300, 3), text(rnd, 257, 3)
+		for _, n := range []int{255, 256, 257} {
+			got, _, _ := Encode(hist, b[:n], start(), s, 1000)
+			best, _ := refine.Parse(hist, b[:n], start(), s, 1000)
+			lazy, _ := refine.Parse(hist, b[:n], start(), lazily, 1000)
+			x, _ := coded.Put(best)
+			y, _ := coded.Put(lazy)
+			if x != y {
+				others[n]++
+			}
+			if n > 256 {
+				x = y
+			}
+			if got[5:] != x {
+				t.Fatal(n)
+			}
+		}
+	}
+	if others[256] == 0 || others[257] == 0 {
+		t.Error("the ways never part")
+	}
+}
+
+func TestSmallestWindow(t *testing.T) {
+	for way := range 4 {
+		s, _, e := Encode("a", strings.Repeat("a", 200), start(), api.Settings{Way: way, Depth: 4}, 1)
+		if e != api.OK || way > 0 && len(s) > 40 {
+			t.Error(way, len(s), e)
+		}
+	}
+}
+
 func TestRefuses(t *testing.T) {
 	much := strings.Repeat("x", 1<<26+1)
 	for k, c := range []struct {

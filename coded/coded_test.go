@@ -172,6 +172,17 @@ func TestTokensRefuses(t *testing.T) {
 	}
 }
 
+func TestMostBytes(t *testing.T) {
+	l := []api.Token{{Byte: 97}}
+	for raw := 1; raw < 1<<16; raw += 257 {
+		l = append(l, api.Token{Kind: api.Repeat, Len: 257})
+	}
+	s, _ := Put(l)
+	if got, e := Tokens(s, 1<<16); e != api.OK || !slices.Equal(got, l) {
+		t.Error(len(got), e)
+	}
+}
+
 func TestBitsLeft(t *testing.T) {
 	l := []api.Token{{Byte: 97}, {Byte: 98}, {Byte: 97}}
 	s, _ := Put(l)

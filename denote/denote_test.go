@@ -2,6 +2,7 @@ package denote_test
 
 import (
 	"math"
+	"strings"
 	"testing"
 
 	"gladstone/api"
@@ -18,6 +19,7 @@ func TestCopy(t *testing.T) {
 		{"a", 3, 1, 1, "aaaa", api.OK},
 		{"abc", 5, 2, 2, "abcbcbcb", api.OK},
 		{"abc", 0, 3, 9, "abc", api.OK},
+		{"a", 258, 1, 1, strings.Repeat("a", 259), api.OK},
 		{"abc", 2, 3, 1 << 26, "abcab", api.OK},
 		{"abc", -1, 9, 3, "", api.ErrArg},
 		{"abc", 259, 1, 3, "", api.ErrArg},

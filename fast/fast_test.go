@@ -60,6 +60,7 @@ func TestRefuses(t *testing.T) {
 		e   api.Errno
 	}{
 		{nil, api.Reps{}, "", 0, api.ErrArg},
+		{nil, api.Reps{}, put(a), 1, api.ErrArg},
 		{three(), api.Reps{}, "", 0, api.ErrArg},
 		{three(), api.Reps{}, put(a), -1, api.ErrArg},
 		{three(), api.Reps{}, put(a), 1<<16 + 1, api.ErrArg},

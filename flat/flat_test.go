@@ -58,10 +58,10 @@ func TestNext(t *testing.T) {
 func TestNil(t *testing.T) {
 	var none *Table
 	tab, _ := New([]int{1, 1}, 1)
-	if _, e := none.Next(bitr.New("a")); e != api.ErrArg || none.Size() != 0 {
+	if s, e := none.Next(bitr.New("a")); s != 0 || e != api.ErrArg || none.Size() != 0 {
 		t.Error("nil table")
 	}
-	if _, e := tab.Next(nil); e != api.ErrArg {
+	if s, e := tab.Next(nil); s != 0 || e != api.ErrArg {
 		t.Error("nil reader")
 	}
 }

@@ -33,6 +33,9 @@ func TestPut(t *testing.T) {
 		if h, left, e := Read(s + "behind"); h != c.h || left != "behind" || e != api.OK {
 			t.Errorf("Read(%q): %v, %q, %d", s, h, left, e)
 		}
+		if h, left, e := Read(s); h != c.h || left != "" || e != api.OK {
+			t.Errorf("Read(%q): %v, %q, %d", s, h, left, e)
+		}
 		for k := range len(s) {
 			if h, left, e := Read(s[:k]); h != (api.Header{}) || left != "" || e != api.ErrShort {
 				t.Errorf("Read(%q): %d", s[:k], e)
@@ -77,6 +80,9 @@ func TestBlocks(t *testing.T) {
 			t.Errorf("%v: %q, %d", c.b, s, e)
 		}
 		if b, left, e := ReadBlock(c.s + "behind"); b != c.b || left != "behind" || e != api.OK {
+			t.Errorf("%q: %v, %d", c.s, b, e)
+		}
+		if b, left, e := ReadBlock(c.s); b != c.b || left != "" || e != api.OK {
 			t.Errorf("%q: %v, %d", c.s, b, e)
 		}
 		for k := range len(c.s) {

@@ -5,9 +5,12 @@ import (
 	"strings"
 	"testing"
 
+	"gladstone/adler"
 	"gladstone/api"
+	"gladstone/coded"
 	"gladstone/deflow"
 	"gladstone/frame"
+	"gladstone/heads"
 	. "gladstone/inflow"
 	"gladstone/unframe"
 )
@@ -134,6 +137,47 @@ func TestStates(t *testing.T) {
 	both := New("", 99)
 	if out, e := both.Write(s + "x"); out != "some bytes" || e != api.ErrForm {
 		t.Error("bytes, and an error", out, e)
+	}
+}
+
+func TestEdges(t *testing.T) {
+	one, _ := frame.Compress("x", api.Params{Log: 15})
+	for _, limit := range []int{0, -1} {
+		r := New("", limit)
+		if out, e := r.Write(one); out != "" || e != api.ErrLimit {
+			t.Error(limit, out, e)
+		}
+	}
+	full := strings.Repeat("full", 1<<13)
+	s, _ := frame.Compress("some bytes", api.Params{Log: 15, Dict: full})
+	r := New(full, 10)
+	if out, e := r.Write(s); out != "some bytes" || e != api.OK || r.Finish() != api.OK {
+		t.Error("a full dictionary", out, e)
+	}
+	long := full + "x"
+	sum := adler.Sum(long)
+	head, _ := heads.Put(api.Header{Log: 15, Dict: true, DictID: sum})
+	if out, e := New(long, 10).Write(head); out != "" || e != api.ErrDict {
+		t.Error("too long a dictionary", e)
+	}
+}
+
+// TestWindow has copies from the window's end, and from past it.
+func TestWindow(t *testing.T) {
+	rnd := rand.New(rand.NewSource(3))
+	first := text(rnd, 1<<15, 26)
+	for d, want := range map[int]api.Errno{1 << 15: api.OK, 1<<15 + 1: api.ErrBlock} {
+		w, _ := deflow.New(api.Params{Log: 15})
+		a, _ := w.Write("y" + first)
+		b, _ := w.Flush()
+		l, _ := coded.Put([]api.Token{{Kind: api.Copy, Len: 100, Dist: d}})
+		h, _ := heads.PutBlock(api.Block{Kind: api.BlockCoded, Raw: 100, Coded: len(l)})
+		r := New("", api.NoLimit)
+		r.Write(a + b)
+		out, e := r.Write(h + l)
+		if e != want || e == api.OK && out != first[:100] || e != api.OK && out != "" {
+			t.Error(d, e)
+		}
 	}
 }
 

@@ -9,6 +9,8 @@ import (
 	"gladstone/bitr"
 	"gladstone/bitw"
 	. "gladstone/lens"
+	"gladstone/pmerge"
+	"gladstone/runs"
 )
 
 func TestSizeOfTwo(t *testing.T) {
@@ -124,7 +126,6 @@ func TestRunIsReadWhole(t *testing.T) {
 	w.Align()
 	s := w.Bytes()
 	r := bitr.New(s)
-	r.Skip(0)
 	// 16 bits of head are followed by the code of 16, and More in what is left of the byte: whole.
 	if _, e := Read(r, 5); e != api.ErrForm || r.At() != 19 {
 		t.Error(e, r.At())
@@ -170,6 +171,43 @@ func TestRound(t *testing.T) {
 				t.Fatal(k, e)
 			}
 		}
+	}
+}
+
+// TestLongestCodesOfRuns has lengths so unlike frequent that, without a limit, some codes of runs would be longer than seven bits.
+func TestLongestCodesOfRuns(t *testing.T) {
+	freq := make([]int, 19)
+	var mixed []int // each length stands between two of another one
+	for k, n := range []int{1, 1, 2, 3, 5, 8, 13, 21, 34, 55, 89} {
+		for range n {
+			mixed = append(mixed, k+1, 12)
+		}
+	}
+	rows := runs.Pack(mixed)
+	extra := 0
+	for _, r := range rows {
+		freq[r.Sym]++
+		extra += runs.Extra(r.Sym)
+	}
+	free, _ := pmerge.Lengths(freq, 16)
+	of, _ := pmerge.Lengths(freq, 7)
+	if slices.Max(free) < 9 || slices.Max(of) != 7 {
+		t.Fatal("the lengths of the test", free, of)
+	}
+	order := []int{16, 17, 18, 0, 8, 7, 9, 6, 10, 5, 11, 4, 12, 3, 13, 2, 14, 1, 15}
+	many := 19
+	for of[order[many-1]] == 0 {
+		many--
+	}
+	if got, want := Size(mixed), 4+3*many+pmerge.Cost(freq, of)+extra; got != want {
+		t.Error(got, want)
+	}
+	w := bitw.New()
+	if e := Put(w, mixed); e != api.OK {
+		t.Fatal(e)
+	}
+	if got, e := Read(bitr.New(w.Bytes()), len(mixed)); e != api.OK || !slices.Equal(got, mixed) {
+		t.Error(got, e)
 	}
 }
 

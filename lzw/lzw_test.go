@@ -93,6 +93,14 @@ func TestRound(t *testing.T) {
 	}
 }
 
+func TestMostBytes(t *testing.T) {
+	much := strings.Repeat("x", 1<<24)
+	s, e := Encode(much, 16)
+	if got, f := Decode(s, 1<<24, 16); got != much || e != api.OK || f != api.OK {
+		t.Error(len(got), e, f)
+	}
+}
+
 func TestErrors(t *testing.T) {
 	for _, most := range []int{8, 17, 0, -1, math.MaxInt} {
 		if s, e := Encode("a", most); s != "" || e != api.ErrArg {

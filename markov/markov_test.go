@@ -59,6 +59,17 @@ func TestRound(t *testing.T) {
 	}
 }
 
+func TestMostBytes(t *testing.T) {
+	if testing.Short() {
+		t.Skip("millions of bits are held")
+	}
+	much := strings.Repeat("x", 1<<24)
+	s, e := Encode(much)
+	if got, f := Decode(s, 1<<24); got != much || e != api.OK || f != api.OK {
+		t.Error(len(got), e, f)
+	}
+}
+
 func TestEdges(t *testing.T) {
 	if s, e := Encode(""); s != "" || e != api.OK || Size("") != 0 {
 		t.Error(s, e)

@@ -69,6 +69,9 @@ func TestNone(t *testing.T) {
 			t.Error(c, got)
 		}
 	}
+	if got := New(strings.Repeat("a", 1<<27+1)).At(5, 9, 9); len(got) != 0 {
+		t.Error("of too many bytes", got)
+	}
 	var none *Finder
 	if len(none.At(0, 1, 2)) != 0 || len(New("").At(0, 1, 2)) != 0 {
 		t.Error("nil")

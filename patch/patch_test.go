@@ -45,9 +45,37 @@ func TestRound(t *testing.T) {
 	}
 }
 
+// TestLevel has texts at which levels part.
+func TestLevel(t *testing.T) {
+	rnd := rand.New(rand.NewSource(2))
+	others := map[int]int{}
+	for range 40 {
+		b := make([]byte, 1000)
+		for i := range b {
+			b[i] = byte('a' + rnd.Intn(3))
+		}
+		for _, now := range []string{string(b[700:900]), string(b[100:])} {
+			old := string(b[:700])
+			s, _ := Make(old, now)
+			for _, level := range []int{0, 1, 6, 7} {
+				f, _ := frame.Compress(now, api.Params{Level: level, Log: 26, Dict: old})
+				if s != "\xbc\x05"+f {
+					others[level]++
+				}
+			}
+		}
+	}
+	if others[0] == 0 || others[1] == 0 || others[6] > 0 || others[7] == 0 {
+		t.Error(others)
+	}
+}
+
 func TestErrors(t *testing.T) {
 	much := strings.Repeat("x", 1<<26+1)
 	if s, e := Make(much, "a"); s != "" || e != api.ErrLimit {
+		t.Error(e)
+	}
+	if s, e := Make(much[1:], "a"); s == "" || e != api.OK {
 		t.Error(e)
 	}
 	if s, e := Make("a", much); s != "" || e != api.ErrLimit {

@@ -42,6 +42,12 @@ func TestRoll(t *testing.T) {
 	if h, e := Roll(Hash(long[:1<<20]), 'x', 'z', 1<<20); h != Hash(long[1:]) || e != api.OK {
 		t.Error("the longest", e)
 	}
+	if h, e := Roll(Hash("a"), 'a', 'b', 1); h != Hash("b") || e != api.OK {
+		t.Error("one byte", h, e)
+	}
+	if _, e := Roll(0, 'a', 'b', 5); e != api.OK {
+		t.Error("the least", e)
+	}
 	for _, c := range [][2]int{{0, 0}, {0, -1}, {0, 1<<20 + 1}, {-1, 5}, {1<<31 - 1, 5}, {math.MinInt, 5}, {5, math.MaxInt}} {
 		if h, e := Roll(c[0], 1, 2, c[1]); h != 0 || e != api.ErrArg {
 			t.Error(c, h, e)

@@ -43,6 +43,7 @@ func TestRun(t *testing.T) {
 		{"level 0 log 15\n", "", 0, api.OK},
 		{"level 0 log 15", "", 1, api.ErrForm},
 		{"level 5 log 15\nwrite " + long + "\nflush\nflush\nfinish\n", "wrote " + Hex(a) + "\nwrote " + Hex(b) + "\nwrote \nwrote " + Hex(c) + "\n", 0, api.OK},
+		{"level 0 log 15\nwrite " + long + "\nflush\n", "wrote 474c44310f\nwrote 0131003100" + long + "\n", 0, api.OK},
 		{"level 0 log 15\nread " + Hex(f[:5]) + "\nread " + Hex(f[5:]) + "\nfinish\n", "got \ngot 616263\nwrote 474c44310f0000000000\n", 0, api.OK},
 		{"level 0 log 15\nread " + Hex(f) + "\nread 00\nfinish\n", "got 616263\n", 3, api.ErrForm},
 		{"level 0 log 15\nread " + Hex(f+"x") + "\n", "", 2, api.ErrForm},

@@ -96,12 +96,12 @@ func TestRefuses(t *testing.T) {
 		}
 	}
 	for _, s := range []int{-1, 52, math.MaxInt, math.MinInt} {
-		if _, e := DistOf(s, 0); e != api.ErrRange {
+		if d, e := DistOf(s, 0); d != 0 || e != api.ErrRange {
 			t.Error("DistOf", s)
 		}
 	}
 	for _, s := range []int{-1, 29, math.MaxInt, math.MinInt} {
-		if _, e := LenOf(s, 0); e != api.ErrRange {
+		if n, e := LenOf(s, 0); n != 0 || e != api.ErrRange {
 			t.Error("LenOf", s)
 		}
 	}

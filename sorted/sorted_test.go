@@ -92,7 +92,8 @@ func TestErrors(t *testing.T) {
 		{"\x01\x02\x01" + coded(98), api.ErrRange},
 		{"\x01\x00\x01" + coded(98), api.ErrRange},
 		{"\x02\x02\x02" + coded(98, 2)[:1], api.ErrForm},
-		{"\x02\x01\x02" + coded(98, 0), api.ErrForm}, // aa never stands first
+		{"\x02\x01\x02" + coded(98, 0), api.ErrForm},                                         // aa never stands first
+		{"\x01\x01" + number(1<<20) + coded(slices.Repeat([]int{2}, 1<<20)...), api.ErrForm}, // as many as may be, but not one
 		{ab, api.OK},
 		{ab[:len(ab)-1], api.ErrForm},
 	} {

@@ -27,7 +27,7 @@ func TestQuantile(t *testing.T) {
 		n, of int
 		want  int
 		e     api.Errno
-	}{{l, 1, 2, 2, api.OK}, {l, 0, 2, 1, api.OK}, {l, 2, 2, 3, api.OK}, {l, 1, 3, 1, api.OK}, {l, 2, 3, 2, api.OK}, {[]int{9}, 1 << 20, 1 << 20, 9, api.OK}, {[]int{5, -7, 5, 0}, 1, 2, 0, api.OK},
+	}{{l, 1, 2, 2, api.OK}, {l, 0, 2, 1, api.OK}, {l, 1, 1, 3, api.OK}, {l, 0, 1, 1, api.OK}, {l, 2, 2, 3, api.OK}, {l, 1, 3, 1, api.OK}, {l, 2, 3, 2, api.OK}, {[]int{9}, 1 << 20, 1 << 20, 9, api.OK}, {[]int{5, -7, 5, 0}, 1, 2, 0, api.OK},
 		{nil, 3, 2, 0, api.ErrArg}, {l, 1, 0, 0, api.ErrArg}, {l, 1, 1<<20 + 1, 0, api.ErrArg}, {l, -1, 2, 0, api.ErrArg}, {l, 3, 2, 0, api.ErrArg}, {nil, 1, 2, 0, api.ErrNone}} {
 		if got, e := Quantile(c.l, c.n, c.of); got != c.want || e != c.e {
 			t.Error(c, got, e)

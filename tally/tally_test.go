@@ -27,7 +27,7 @@ func TestGain(t *testing.T) {
 		raw, coded int
 		gain       float64
 		e          api.Errno
-	}{{4, 1, 0.75, api.OK}, {4, 0, 1, api.OK}, {4, 8, -1, api.OK}, {0, 0, 0, api.ErrArg}, {-1, 1, 0, api.ErrArg}, {1, -1, 0, api.ErrArg}, {math.MinInt, math.MinInt, 0, api.ErrArg}} {
+	}{{4, 1, 0.75, api.OK}, {4, 0, 1, api.OK}, {4, 8, -1, api.OK}, {1, 0, 1, api.OK}, {0, 0, 0, api.ErrArg}, {-1, 1, 0, api.ErrArg}, {1, -1, 0, api.ErrArg}, {math.MinInt, math.MinInt, 0, api.ErrArg}} {
 		if g, e := Gain(c.raw, c.coded); g != c.gain || e != c.e {
 			t.Error(c, g, e)
 		}

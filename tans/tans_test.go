@@ -164,8 +164,12 @@ func TestErrors(t *testing.T) {
 	if x, e := Encode(make([]int, 1<<20+1), half, 5); x != "" || e != api.ErrLimit {
 		t.Error(e)
 	}
-	if x, e := Encode(make([]int, 1<<20), half, 5); len(x) != 1<<17+1 || e != api.OK {
+	x, e := Encode(make([]int, 1<<20), half, 5)
+	if len(x) != 1<<17+1 || e != api.OK {
 		t.Error(len(x), e)
+	}
+	if l, e := Decode(x, 1<<20, half, 5); len(l) != 1<<20 || e != api.OK {
+		t.Error(len(l), e)
 	}
 	if x, e := Encode(nil, half, 5); x != "\x00" || e != api.OK {
 		t.Errorf("%q, %d", x, e)

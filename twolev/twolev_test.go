@@ -25,6 +25,8 @@ func TestNew(t *testing.T) {
 		{[]int{1, 2, 3, 3}, 1, 15, 2 + 1<<14, api.OK},
 		{[]int{3, 3, 3, 3, 3, 3, 3, 3}, 2, 3, 12, api.OK},
 		{[]int{0, 1}, 2, 5, 4, api.OK},
+		{[]int{0, 1}, 1, 1, 2, api.OK},
+		{[]int{1, 1}, 15, 15, 1 << 15, api.OK},
 		{[]int{1, 1}, 0, 3, 0, api.ErrArg},
 		{[]int{1, 1}, 4, 3, 0, api.ErrArg},
 		{[]int{1, 1}, 1, 0, 0, api.ErrArg},
@@ -44,10 +46,10 @@ func TestNew(t *testing.T) {
 func TestNil(t *testing.T) {
 	var none *Table
 	tab, _ := New([]int{1, 1}, 1, 1)
-	if _, e := none.Next(bitr.New("a")); e != api.ErrArg || none.Size() != 0 {
+	if s, e := none.Next(bitr.New("a")); s != 0 || e != api.ErrArg || none.Size() != 0 {
 		t.Error("nil table")
 	}
-	if _, e := tab.Next(nil); e != api.ErrArg {
+	if s, e := tab.Next(nil); s != 0 || e != api.ErrArg {
 		t.Error("nil reader")
 	}
 }

@@ -22,6 +22,9 @@ func TestPack(t *testing.T) {
 	if got, e := Pack([]int{5, 0, 0, 0}); !slices.Equal(got, []int{6, 0, 0}) || e != api.OK {
 		t.Error(got, e)
 	}
+	if got, e := Unpack([]int{2, 1<<20 + 1, 0, 3}); !slices.Equal(got, []int{1, 1 << 20, 0, 2}) || e != api.OK {
+		t.Error(got, e)
+	}
 	if got, e := Pack([]int{1, 1 << 20, 0, 2}); !slices.Equal(got, []int{2, 1<<20 + 1, 0, 3}) || e != api.OK {
 		t.Error(got, e)
 	}
