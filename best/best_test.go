@@ -163,6 +163,14 @@ func TestRefuses(t *testing.T) {
 			t.Error("Quick", k, e)
 		}
 	}
+	for _, block := range []string{"b", "xxxxxxxxxx"} {
+		hist := (half + half)[len(block):]
+		l, cost, e := Parse(hist, block, r, flat, 1<<26)
+		q, quick, f := Quick(hist, block, r, flat, 1<<26)
+		if len(l) != 1 || len(q) != 1 || cost != 9+len(block)/10 || quick != cost || e != api.OK || f != api.OK {
+			t.Error("as many bytes as may be", l, cost, e, q, quick, f)
+		}
+	}
 	if l, cost, e := Parse("abc", "", r, flat, 9); len(l) != 0 || cost != 0 || e != api.OK {
 		t.Error("no bytes", l, cost, e)
 	}

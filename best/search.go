@@ -9,17 +9,28 @@ import (
 	"gladstone/token"
 )
 
-// loose is what block costs at least, each source counting as one of the last four distances, or as the cheapest distance: it is known at once, and often enough.
-func loose(hist, block string, c *costs, window int) int {
+// longest tells how long a source of a place of the block is at most.
+func longest(hist, block string, window int) func(i int) int {
+	if len(hist) > mostClose {
+		return func(i int) int { return min(api.MaxLen, len(block)-i) }
+	}
 	ends := near.New(hist + block)
+	return func(i int) int {
+		if l := ends.At(len(hist)+i, window, api.MaxLen); len(l) > 0 {
+			return l[len(l)-1].Len
+		}
+		return 0
+	}
+}
+
+// loose is what block costs at least, each source counting as one of the last four distances, or as the cheapest distance: it is known at once, and often enough.
+func loose(block string, c *costs, longest func(i int) int) int {
 	dist := slices.Min(c.dist)
 	least := make([]int, len(block)+1)
 	for i := len(block) - 1; i >= 0; i-- {
 		least[i] = c.literal[block[i]] + least[i+1]
-		if l := ends.At(len(hist)+i, window, api.MaxLen); len(l) > 0 {
-			for n := api.MinLen; n <= l[len(l)-1].Len; n++ {
-				least[i] = min(least[i], min(c.again(n), c.length[n]+dist)+least[i+n])
-			}
+		for n := longest(i); n >= api.MinLen; n-- {
+			least[i] = min(least[i], min(c.again(n), c.length[n]+dist)+least[i+n])
 		}
 	}
 	return least[0]
@@ -35,7 +46,7 @@ type search struct {
 	window int
 	costs  *costs
 	gap    int
-	ahead  []int        // of each place of the text the one ahead that begins with the same two bytes; -1: none
+	ahead  []int32      // of each place of the text the one ahead that begins with the same two bytes, from 1 on; 0: none
 	spans  map[int]span // of the distances that are sources somewhere
 	least  []int        // of each place of the block what all from there on costs at least
 	places []reached[api.Reps]
@@ -60,19 +71,14 @@ func newSearch(hist, block string, r api.Reps, c *costs, window int) *search {
 	return s
 }
 
-// twos is of each place the one ahead that begins with the same two bytes.
-func twos(text string) []int {
-	last := map[[2]byte]int{}
-	out := make([]int, len(text))
-	for i := range len(text) {
-		out[i] = -1
-		if i+1 < len(text) {
-			two := [2]byte{text[i], text[i+1]}
-			if k, ok := last[two]; ok {
-				out[i] = k
-			}
-			last[two] = i
-		}
+// twos is of each place the one ahead that begins with the same two bytes; places count from 1 on.
+func twos(text string) []int32 {
+	last := make([]int32, 1<<16)
+	out := make([]int32, len(text))
+	for i := 0; i+1 < len(text); i++ {
+		two := int(text[i])<<8 + int(text[i+1])
+		out[i] = last[two]
+		last[two] = int32(i + 1)
 	}
 	return out
 }
@@ -80,7 +86,7 @@ func twos(text string) []int {
 // sources tells all distances from which two bytes or more come again at place i of the block, rising.
 func (s *search) sources(i int, tell func(d int)) {
 	at := s.base + i
-	for k := s.ahead[at]; k >= 0 && at-k <= s.window; k = s.ahead[k] {
+	for k := int(s.ahead[at]) - 1; k >= 0 && at-k <= s.window; k = int(s.ahead[k]) - 1 {
 		tell(at - k)
 	}
 }

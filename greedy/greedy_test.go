@@ -63,6 +63,9 @@ func TestRefuses(t *testing.T) {
 		}
 	}
 	for _, s := range ways() {
+		if l, e := Parse((half + half)[10:], "xxxxxxxxxx", api.Reps{}, s, 1<<26); e != api.OK || len(l) != 1 {
+			t.Error("as many bytes as may be", l, e)
+		}
 		if l, e := Parse("abc", "", api.Reps{}, s, 1); e != api.OK || len(l) != 0 {
 			t.Error("no bytes", l, e)
 		}
