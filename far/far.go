@@ -37,7 +37,7 @@ func New(hist, block string) *Finder {
 	f.bits = bits.Len(uint(2 * rows))
 	f.rows, f.latest = make([]uint64, 1<<f.bits), make([]int32, 1<<f.bits)
 	// Most rows of the history are none of the block's: few bits are enough to know that.
-	wide := f.bits + 3
+	wide := f.bits + 5
 	asked := make([]uint64, 1<<wide/64+1)
 	for i := range rows {
 		x := word(block, i)
