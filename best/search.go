@@ -43,6 +43,7 @@ type span struct{ first, last int }
 type search struct {
 	text   string // hist, and block
 	base   int    // where the block begins
+	reps   api.Reps
 	window int
 	costs  *costs
 	gap    int
@@ -50,11 +51,13 @@ type search struct {
 	spans  map[int]span // of the distances that are sources somewhere
 	least  []int        // of each place of the block what all from there on costs at least
 	places []reached[api.Reps]
+	cut    bool // whether states were left out because there were too many
 }
 
 func newSearch(hist, block string, r api.Reps, c *costs, window int) *search {
 	s := &search{text: hist + block, base: len(hist), window: window, costs: c, gap: c.gap(), spans: map[int]span{}}
 	s.ahead = twos(s.text)
+	s.reps = r
 	s.places = make([]reached[api.Reps], len(block)+1)
 	for i := range len(block) {
 		s.sources(i, func(d int) {
@@ -67,7 +70,6 @@ func newSearch(hist, block string, r api.Reps, c *costs, window int) *search {
 		})
 	}
 	s.least = s.atLeast(r)
-	s.places[0].offer(step[api.Reps]{state: s.alive(r, 0)})
 	return s
 }
 
@@ -143,12 +145,17 @@ func (s *search) alive(r api.Reps, i int) api.Reps {
 	return r
 }
 
-// below is the cheapest tokens that cost less than most, and what they cost; none, if there are none.
-func (s *search) below(most int) ([]api.Token, int) {
+// below is the cheapest tokens that cost less than most, and what they cost, going on from the width cheapest states of each place; none, if there are none.
+func (s *search) below(most, width int) ([]api.Token, int) {
 	end := len(s.places) - 1
+	clear(s.places)
+	s.cut = false
+	s.places[0].offer(step[api.Reps]{state: s.alive(s.reps, 0)})
 	for i := range end {
 		s.places[i].index = nil
-		for _, k := range s.worthy(i) {
+		on := s.worthy(i)
+		s.cut = s.cut || len(on) > width
+		for _, k := range on[:min(len(on), width)] {
 			s.extend(i, k, most)
 		}
 	}
