@@ -38,7 +38,7 @@ func TestRun(t *testing.T) {
 		n         int
 		e         api.Errno
 	}{
-		{"", "", 0, api.OK},
+		{"", "", 1, api.ErrForm},
 		{"level 0 log 15\nfinish\n", "wrote 474c44310f0000000000\n", 0, api.OK},
 		{"level 0 log 15\n", "", 0, api.OK},
 		{"level 0 log 15", "", 1, api.ErrForm},
@@ -76,6 +76,45 @@ func TestLinesThatAreNone(t *testing.T) {
 	for _, line := range []string{"", "level 0 log 15", "write", "write ", "write 0", "write 0A", "write 000", "write  00", "write 00 ", "write 0g", "Write 00", "flush ", " flush", "flush 00", "finish ", "read", "read ", "read 1", "read xx", "wrote 00", "write00", "write\t00", "flush\r"} {
 		if out, n, e := Run("level 0 log 15\nflush\n" + line + "\n"); out != "wrote 474c44310f\n" || n != 3 || e != api.ErrForm {
 			t.Errorf("%q: %q, %d, %d", line, out, n, e)
+		}
+	}
+}
+
+// TestWithoutAFirstLine holds that no text is well whose first line was not read.
+func TestWithoutAFirstLine(t *testing.T) {
+	const first = "level 0 log 15\n"
+	for n := range len(first) {
+		if out, at, e := Run(first[:n]); out != "" || at != 1 || e != api.ErrForm {
+			t.Errorf("%q: %q, %d, %d", first[:n], out, at, e)
+		}
+	}
+	for _, text := range []string{"\n\n", "\n" + first, "\n" + first + "finish\n", "finish\n" + first, "flush\n", "finish\n", "write 00\n", "read 00\n", " ", "\r\n", "\x00", "\xff\n", "\x00" + first} {
+		if out, at, e := Run(text); out != "" || at != 1 || e != api.ErrForm {
+			t.Errorf("%q: %q, %d, %d", text, out, at, e)
+		}
+	}
+	for i := range 1 << 16 {
+		for _, text := range []string{string([]byte{byte(i)}), string([]byte{byte(i), byte(i >> 8)})} {
+			if out, at, e := Run(text); out != "" || at != 1 || e != api.ErrForm {
+				t.Fatalf("%q: %q, %d, %d", text, out, at, e)
+			}
+		}
+	}
+}
+
+// TestEachBeginning holds that a script that is well is well up to each of its lines' ends, and nowhere else.
+func TestEachBeginning(t *testing.T) {
+	f, _ := frame.Compress("abc", api.Params{Level: 3, Log: 20})
+	script := "level 6 log 15\nwrite 616263\nflush\nread " + Hex(f) + "\nflush\nfinish\n"
+	for n := range len(script) + 1 {
+		text := script[:n]
+		whole := strings.Count(text, "\n")
+		out, at, e := Run(text)
+		if strings.Count(out, "\n") != max(0, whole-1) {
+			t.Errorf("%q: %q", text, out)
+		}
+		if well := strings.HasSuffix(text, "\n"); well && (at != 0 || e != api.OK) || !well && (at != whole+1 || e != api.ErrForm) {
+			t.Errorf("%q: %d, %d", text, at, e)
 		}
 	}
 }
